@@ -48,3 +48,14 @@ func (q *Queue[T]) Pop() (T, error) {
 	sink(q.held, 0, q.ahead)
 	return first, nil
 }
+
+// Drain pops one after another for a range, till none is held: what is pushed meanwhile comes in its turn.
+// What a range that ends early has not had is still held.
+func (q *Queue[T]) Drain(yield func(T) bool) {
+	for {
+		x, err := q.Pop()
+		if err != nil || !yield(x) {
+			return
+		}
+	}
+}

@@ -151,3 +151,72 @@ func TestQueuesShareNothing(t *testing.T) {
 		}
 	}
 }
+
+// TestDrain: a range over it has all, the first ones first, and leaves none.
+func TestDrain(t *testing.T) {
+	for _, l := range lists() {
+		keys := keysOf(l)
+		q, got := filled(greater, keys), []int{}
+		for x := range q.Drain {
+			got = append(got, x)
+			if q.Many() != len(keys)-len(got) {
+				t.Fatalf("%v: %d came, %d are left", keys, len(got), q.Many())
+			}
+		}
+		want := slices.Sorted(slices.Values(keys))
+		slices.Reverse(want)
+		if !slices.Equal(got, want) {
+			t.Errorf("%v: got %v", keys, got)
+		}
+		for x := range q.Drain {
+			t.Errorf("%v: drained, and then came %d", keys, x)
+		}
+	}
+}
+
+// TestDrainInPart: what a range that ends early has not had is still held, as is what is pushed then.
+func TestDrainInPart(t *testing.T) {
+	for _, l := range lists() {
+		keys := keysOf(l)
+		rises := slices.Sorted(slices.Values(keys))
+		for _, part := range []int{1, 2, len(keys) / 2, len(keys) - 1, len(keys)} {
+			if part < 1 || part > len(keys) {
+				continue
+			}
+			q, got := filled(less, keys), []int{}
+			for x := range q.Drain {
+				if got = append(got, x); len(got) == part {
+					break
+				}
+			}
+			q.Push(2 * keyTop)
+			rest := append(slices.Clone(rises[part:]), 2*keyTop)
+			if left := emptied(t, q); !slices.Equal(got, rises[:part]) || !slices.Equal(left, rest) {
+				t.Errorf("%d of %v: got %v, left are %v", part, keys, got, left)
+			}
+		}
+	}
+}
+
+// TestPushWhileDrained: what is pushed within a range comes in its turn, be it the first, one among others, or the only one.
+func TestPushWhileDrained(t *testing.T) {
+	for name, c := range map[string]struct{ held, pushed, want []int }{
+		"first":    {[]int{4, 6}, []int{1}, []int{4, 1, 6}},
+		"among":    {[]int{4, 6, 8}, []int{7}, []int{4, 6, 7, 8}},
+		"last":     {[]int{4, 6}, []int{9, 9}, []int{4, 6, 9, 9}},
+		"only one": {[]int{4}, []int{5, 3}, []int{4, 5, 3}},
+		"none":     {nil, []int{5}, nil},
+	} {
+		q, pushed, got := filled(less, c.held), c.pushed, []int{}
+		for x := range q.Drain {
+			got = append(got, x)
+			if len(pushed) > 0 {
+				q.Push(pushed[0])
+				pushed = pushed[1:]
+			}
+		}
+		if !slices.Equal(got, c.want) || q.Many() != 0 {
+			t.Errorf("%s: got %v, want %v; left are %d", name, got, c.want, q.Many())
+		}
+	}
+}
